@@ -42,6 +42,10 @@ func (p pairs) has(a int, b int) bool {
 	return p&pairBit(a, b) != 0
 }
 
+func (p pairs) hasAll(other pairs) bool {
+	return other&^p == 0
+}
+
 func (p pairs) with(a int, b int) pairs {
 	return p | pairBit(a, b)
 }

@@ -90,7 +90,7 @@ func (g grid) partCount() int {
 	return len(seen)
 }
 
-func turned(row []int) []int {
+func turned[T any](row []T) []T {
 	out := slices.Clone(row)
 	slices.Reverse(out)
 	return out
