@@ -104,12 +104,12 @@ func standsAhead(x, y []int) bool {
 	return slices.Compare(x, y) < 0
 }
 
-func sameLists(x, y [][]int) bool {
-	return slices.EqualFunc(x, y, slices.Equal[[]int])
+func sameLists[T comparable](x, y [][]T) bool {
+	return slices.EqualFunc(x, y, slices.Equal[[]T])
 }
 
-func cloneLists(lists [][]int) [][]int {
-	var out [][]int
+func cloneLists[T any](lists [][]T) [][]T {
+	var out [][]T
 	for _, l := range lists {
 		out = append(out, slices.Clone(l))
 	}
@@ -119,7 +119,12 @@ func cloneLists(lists [][]int) [][]int {
 // expectListsApart fails if two of these lists share memory, spare room included. It writes over all of it.
 func expectListsApart(t *testing.T, what string, lists [][]int) {
 	t.Helper()
-	mark := func(i int) int { return -1000 - i }
+	expectApart(t, what, lists, func(i int) int { return -1000 - i })
+}
+
+// expectApart does so with lists of any kind, by a mark of each list's own.
+func expectApart[T comparable](t *testing.T, what string, lists [][]T, mark func(int) T) {
+	t.Helper()
 	for i, l := range lists {
 		for j := range l[:cap(l)] {
 			l[:cap(l)][j] = mark(i)
@@ -128,7 +133,7 @@ func expectListsApart(t *testing.T, what string, lists [][]int) {
 	for i, l := range lists {
 		for _, x := range l[:cap(l)] {
 			if x != mark(i) {
-				t.Fatalf("%s: lists %d and %d share memory", what, i, -1000-x)
+				t.Fatalf("%s: list %d shares memory with the one that is marked %v", what, i, x)
 			}
 		}
 	}
