@@ -160,9 +160,9 @@ func blockTree(cuts []int, blocks [][]int) []impl.Tie {
 	return out
 }
 
-// common is all numbers that are in both lists.
-func common(x, y []int) []int {
-	var out []int
+// common is all that is in both lists.
+func common[T comparable](x, y []T) []T {
+	var out []T
 	for _, k := range x {
 		if slices.Contains(y, k) {
 			out = append(out, k)
